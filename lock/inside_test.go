@@ -64,6 +64,14 @@ func TestP8_5AReaderReadsOverAndOver(t *testing.T) {
 	}
 }
 
+func TestP8_5WhatTheReaderCountsIsToldInTheEnd(t *testing.T) {
+	r := newRace([]int{4, 5})
+	r.cells[0].level.Add(1)
+	if got := r.run([]api.Move{{From: 0, To: 1, Amount: 2}}, 2); got < 1 {
+		t.Errorf("%d wrong vectors", got)
+	}
+}
+
 // A reader between the change of one level and that of the other sees an odd counter, whoever moves.
 func TestP8_5AReaderBesideOneMover(t *testing.T) {
 	r := newRace([]int{0, 0, 0})
