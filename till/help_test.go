@@ -10,6 +10,7 @@ import (
 
 	"larder/api"
 	"larder/disk"
+	"larder/lin"
 	"larder/lock"
 	"larder/mend"
 	"larder/stock"
@@ -412,6 +413,20 @@ func fault(s api.Story, start api.State, idle bool) string {
 	}
 	if idle && !sameState(l.State(), s.State) {
 		return "one ledger: " + show(l.State()) + "\nthe till: " + show(s.State)
+	}
+	return linFault(s, start, idle)
+}
+
+// linFault says the same by package lin.
+func linFault(s api.Story, start api.State, idle bool) string {
+	if good, e := lin.Holds(s.Ops, s.Order, start); !good || e != api.OK {
+		return fmt.Sprintf("lin.Holds: %v, %d", good, e)
+	}
+	if !idle {
+		return ""
+	}
+	if last, e := lin.Final(s.Ops, s.Order, start); e != api.OK || !sameState(last, s.State) {
+		return fmt.Sprintf("lin.Final: %d, %s\nthe till: %s", e, show(last), show(s.State))
 	}
 	return ""
 }
